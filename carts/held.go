@@ -1,0 +1,85 @@
+package carts
+
+import (
+	"strconv"
+
+	"carts/api"
+	"carts/piece"
+)
+
+// learn joins a delta to what the replica holds. Nothing else changes that.
+func (x *Replica) learn(delta piece.Piece) {
+	x.held = piece.Join(x.held, delta)
+}
+
+// putEvent makes an event that takes away the entries of the dots taken and
+// lays an entry of its own.
+func (x *Replica) putEvent(token string, taken piece.Piece, entry piece.Entry) (string, api.Errno) {
+	errno := x.checkEvent(token)
+	if errno != api.OK {
+		return "", errno
+	}
+	number := x.nextNumber()
+	delta := taken.WithEntry(x.me, number, entry)
+	x.learn(delta)
+	return x.counts(), api.OK
+}
+
+// takeEvent makes an event that takes away the entries of the dots taken and
+// lays none.
+func (x *Replica) takeEvent(token string, taken piece.Piece) (string, api.Errno) {
+	errno := x.checkEvent(token)
+	if errno != api.OK {
+		return "", errno
+	}
+	number := x.nextNumber()
+	delta := taken.WithDot(x.me, number)
+	x.learn(delta)
+	return x.counts(), api.OK
+}
+
+// counts writes a digit for each replica of the cluster: how many of its
+// events are known. It begins State, and is the token that calls answer.
+func (x *Replica) counts() string {
+	text := ""
+	for r := 0; r < x.n; r++ {
+		count := x.held.Count(r)
+		text += strconv.Itoa(count)
+	}
+	return text
+}
+
+// nextNumber is that of the next event here. What is held has no hole, so
+// the last known number is how many are known.
+func (x *Replica) nextNumber() int {
+	known := x.held.Count(x.me)
+	return known + 1
+}
+
+// dotsOfCart answers the dots of all entries of a cart.
+func (x *Replica) dotsOfCart(cart int) piece.Piece {
+	var all piece.Piece
+	for item := 0; item < api.Items; item++ {
+		dots := x.held.DotsOf(cart, item)
+		all = piece.Join(all, dots)
+	}
+	return all
+}
+
+// sums writes what a cart has: the letter and the sum of each item that has
+// an entry.
+func (x *Replica) sums(cart int) string {
+	text := ""
+	for item := 0; item < api.Items; item++ {
+		sum, found := x.held.Sum(cart, item)
+		if !found {
+			continue
+		}
+		if text != "" {
+			text += ","
+		}
+		text += piece.ItemLetter(item)
+		text += strconv.Itoa(sum)
+	}
+	return text
+}
