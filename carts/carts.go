@@ -11,6 +11,8 @@ type Replica struct {
 	me   int         // its number in the cluster
 	n    int         // how many replicas the cluster has
 	held piece.Piece // the events that it knows and what is in the carts; without holes
+	had  int         // how many deltas it has had; each brought a dot, so no more than held has
+	log  string      // its frames, one behind the other
 }
 
 // New makes a replica without events (P3).
@@ -80,13 +82,29 @@ func (x *Replica) Read(token string, cart int) (string, string, api.Errno) {
 }
 
 // Log writes what the replica has on its disk (P8).
-func (x *Replica) Log() string { return "" }
+func (x *Replica) Log() string {
+	return x.log
+}
 
 // Compact makes the log short (P8).
-func (x *Replica) Compact() {}
+func (x *Replica) Compact() {
+	x.log = wholeFrame(x.had, x.held)
+}
 
 // Open makes a replica out of a log (P9).
-func Open(me int, n int, log string) (*Replica, api.Errno) { return nil, api.OK }
+func Open(me int, n int, log string) (*Replica, api.Errno) {
+	x, errno := New(me, n)
+	if errno != api.OK {
+		return nil, errno
+	}
+	if len(log) > api.MaxLog {
+		return nil, api.ErrLog
+	}
+	if !x.readLog(log) {
+		return nil, api.ErrLog
+	}
+	return x, api.OK
+}
 
 // Take takes a message and answers it (P10).
 func (x *Replica) Take(message string) (string, api.Errno) { return "", api.OK }

@@ -7,9 +7,12 @@ import (
 	"carts/piece"
 )
 
-// learn joins a delta to what the replica holds. Nothing else changes that.
+// learn joins a delta to what the replica holds, and writes it on the log.
+// All that a replica learns goes through here.
 func (x *Replica) learn(delta piece.Piece) {
 	x.held = piece.Join(x.held, delta)
+	x.had++
+	x.log += deltaFrame(delta)
 }
 
 // putEvent makes an event that takes away the entries of the dots taken and

@@ -60,6 +60,28 @@ func (p Piece) Count(replica int) int {
 	return count
 }
 
+// Size tells how many dots the piece has.
+func (p Piece) Size() int {
+	size := 0
+	for r := 0; r < api.MaxReplicas; r++ {
+		size += p.Count(r)
+	}
+	return size
+}
+
+// HasHole tells whether the piece has a dot but not the one with the number
+// ahead.
+func (p Piece) HasHole() bool {
+	for r := 0; r < api.MaxReplicas; r++ {
+		for i := 1; i < api.MaxEvents; i++ {
+			if p.slots[r][i].known && !p.slots[r][i-1].known {
+				return true
+			}
+		}
+	}
+	return false
+}
+
 // DotsOf answers a piece without entries: the dots of all entries that the
 // piece has of an item in a cart.
 func (p Piece) DotsOf(cart int, item int) Piece {
@@ -111,6 +133,21 @@ func joinSlots(a slot, b slot) slot {
 		return a
 	}
 	return slot{known: true}
+}
+
+// Clash tells whether two pieces have different entries of the same dot. A
+// dot without an entry is at odds with none: there it was taken away.
+func Clash(p Piece, q Piece) bool {
+	for r := 0; r < api.MaxReplicas; r++ {
+		for i := 0; i < api.MaxEvents; i++ {
+			a := p.slots[r][i]
+			b := q.slots[r][i]
+			if a.filled && b.filled && a.entry != b.entry {
+				return true
+			}
+		}
+	}
+	return false
 }
 
 // isOf tells whether the slot has an entry of that item in that cart.

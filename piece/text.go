@@ -4,7 +4,28 @@ import (
 	"strconv"
 
 	"carts/api"
+	"carts/digits"
 )
+
+// Text writes the piece: its dots, a semicolon, its entries.
+func (p Piece) Text() string {
+	dots := p.dotsText()
+	entries := p.EntriesText()
+	return dots + ";" + entries
+}
+
+// dotsText writes the dots, rising.
+func (p Piece) dotsText() string {
+	text := ""
+	for r := 0; r < api.MaxReplicas; r++ {
+		for i := 0; i < api.MaxEvents; i++ {
+			if p.slots[r][i].known {
+				text += dotText(r, i+1)
+			}
+		}
+	}
+	return text
+}
 
 // EntriesText writes the entries, rising. Carts, items and dots rise in their
 // texts as in their numbers, so going through them in order needs no sorting.
@@ -53,11 +74,7 @@ func valueText(value int) string {
 		sign = "-"
 		size = -value
 	}
-	digits := strconv.Itoa(size)
-	if size < 10 {
-		digits = "0" + digits
-	}
-	return sign + digits
+	return sign + digits.Two(size)
 }
 
 // cartLetter is the letter of a cart in texts; of what is no cart, nothing.
