@@ -107,7 +107,24 @@ func Open(me int, n int, log string) (*Replica, api.Errno) {
 }
 
 // Take takes a message and answers it (P10).
-func (x *Replica) Take(message string) (string, api.Errno) { return "", api.OK }
+func (x *Replica) Take(message string) (string, api.Errno) {
+	h, told, good := readMessage(message)
+	if !good {
+		return "", api.ErrText
+	}
+	if !x.isForMe(h) {
+		return "", api.ErrWho
+	}
+	errno := x.checkPiece(told)
+	if errno != api.OK {
+		return "", errno
+	}
+	if x.hasNews(told) {
+		x.learn(told)
+	}
+	answer := head{kind: "A", from: x.me, to: h.from, count: h.count}
+	return answer.text(), api.OK
+}
 
 // Ship writes a message to another replica (P11).
 func (x *Replica) Ship(to int) (string, api.Errno) { return "", api.OK }

@@ -285,7 +285,7 @@ func TestReadingChangesNothing(t *testing.T) {
 // P1: no call panics, at numbers and strings of all kinds.
 func TestNoPanic(t *testing.T) {
 	numbers := []int{math.MinInt, -100, -1, 0, 1, 2, 3, 4, 9, 99, 100, math.MaxInt}
-	texts := []string{"", "0", "00", "000", "999", ";", "\x00\xff", "I0101;", "011D01;aA01+05", strings.Repeat("0", 100000)}
+	texts := []string{"", "0", "00", "000", "999", ";", "\x00\xff", "I0101;", "F219911;cD11-99", "A0101", "011D01;aA01+05", strings.Repeat("0", 100000)}
 	for _, s := range texts {
 		for _, a := range numbers {
 			for _, b := range numbers {

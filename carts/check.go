@@ -1,6 +1,9 @@
 package carts
 
-import "carts/api"
+import (
+	"carts/api"
+	"carts/piece"
+)
 
 func isCart(cart int) bool {
 	return cart >= 0 && cart < api.Carts
@@ -51,4 +54,30 @@ func (x *Replica) checkEvent(token string) api.Errno {
 		return api.ErrFull
 	}
 	return api.OK
+}
+
+// checkPiece answers why a piece that was read may not be joined to what is
+// held, or OK. The order is that of P10; a log asks for the same (P9).
+func (x *Replica) checkPiece(p piece.Piece) api.Errno {
+	if !x.isOfCluster(p) {
+		return api.ErrWho
+	}
+	joined := piece.Join(x.held, p)
+	if joined.HasHole() {
+		return api.ErrGap
+	}
+	if piece.Clash(x.held, p) {
+		return api.ErrClash
+	}
+	return api.OK
+}
+
+// isOfCluster tells whether the piece has dots of the cluster's replicas alone.
+func (x *Replica) isOfCluster(p piece.Piece) bool {
+	for r := x.n; r < api.MaxReplicas; r++ {
+		if p.Count(r) > 0 {
+			return false
+		}
+	}
+	return true
 }

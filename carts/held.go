@@ -15,6 +15,13 @@ func (x *Replica) learn(delta piece.Piece) {
 	x.log += deltaFrame(delta)
 }
 
+// hasNews tells whether the piece has a dot that is not known here.
+func (x *Replica) hasNews(p piece.Piece) bool {
+	joined := piece.Join(x.held, p)
+	known := x.held.Size()
+	return joined.Size() > known
+}
+
 // putEvent makes an event that takes away the entries of the dots taken and
 // lays an entry of its own.
 func (x *Replica) putEvent(token string, taken piece.Piece, entry piece.Entry) (string, api.Errno) {

@@ -72,7 +72,7 @@ func (x *Replica) readDelta(text string) bool {
 	if !good {
 		return false
 	}
-	if !x.fits(delta) {
+	if x.checkPiece(delta) != api.OK {
 		return false
 	}
 	if !x.hasNews(delta) {
@@ -94,7 +94,7 @@ func (x *Replica) readWhole(text string) bool {
 	if !good {
 		return false
 	}
-	if !x.fits(whole) {
+	if x.checkPiece(whole) != api.OK {
 		return false
 	}
 	if had > whole.Size() {
@@ -104,33 +104,4 @@ func (x *Replica) readWhole(text string) bool {
 	x.had = had
 	x.Compact()
 	return true
-}
-
-// fits tells whether a piece that was read may be joined to what is held.
-func (x *Replica) fits(p piece.Piece) bool {
-	if !x.isOfCluster(p) {
-		return false
-	}
-	if piece.Clash(x.held, p) {
-		return false
-	}
-	joined := piece.Join(x.held, p)
-	return !joined.HasHole()
-}
-
-// isOfCluster tells whether the piece has dots of the cluster's replicas alone.
-func (x *Replica) isOfCluster(p piece.Piece) bool {
-	for r := x.n; r < api.MaxReplicas; r++ {
-		if p.Count(r) > 0 {
-			return false
-		}
-	}
-	return true
-}
-
-// hasNews tells whether the piece has a dot that is not known here.
-func (x *Replica) hasNews(p piece.Piece) bool {
-	joined := piece.Join(x.held, p)
-	known := x.held.Size()
-	return joined.Size() > known
 }

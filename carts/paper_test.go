@@ -1,4 +1,4 @@
-package carts
+package carts_test
 
 import (
 	"fmt"
@@ -10,22 +10,10 @@ import (
 	"testing"
 
 	"carts/api"
+	"carts/carts"
 )
 
 type set map[string]bool
-
-// paper is a replica as the document words it: sets of texts.
-type paper struct {
-	me, n   int
-	dots    set
-	entries set
-	had     int
-	frames  []string
-}
-
-func newPaper(me, n int) *paper {
-	return &paper{me: me, n: n, dots: set{}, entries: set{}}
-}
 
 func rising(s set) string {
 	var list []string
@@ -36,52 +24,128 @@ func rising(s set) string {
 	return strings.Join(list, "")
 }
 
+// plain is a piece as the document words it: sets of texts.
+type plain struct{ dots, entries set }
+
+func newPlain() plain { return plain{set{}, set{}} }
+
+func (q plain) text() string { return rising(q.dots) + ";" + rising(q.entries) }
+
+func joinPlain(p, q plain) plain {
+	joined := newPlain()
+	for e := range p.entries {
+		if q.entries[e] || !q.dots[e[2:4]] {
+			joined.entries[e] = true
+		}
+	}
+	for e := range q.entries {
+		if p.entries[e] || !p.dots[e[2:4]] {
+			joined.entries[e] = true
+		}
+	}
+	for d := range p.dots {
+		joined.dots[d] = true
+	}
+	for d := range q.dots {
+		joined.dots[d] = true
+	}
+	return joined
+}
+
+func (q plain) hasHole() bool {
+	for d := range q.dots {
+		if d[1] > '1' && !q.dots[fmt.Sprintf("%c%c", d[0], d[1]-1)] {
+			return true
+		}
+	}
+	return false
+}
+
+var pieceForm = regexp.MustCompile(`^((?:[0-2][1-9])*);((?:[abc][A-D][0-2][1-9][+-][0-9]{2})*)$`)
+
+// readPlain reads a piece by the document's words.
+func readPlain(text string) (plain, bool) {
+	q := newPlain()
+	parts := pieceForm.FindStringSubmatch(text)
+	if parts == nil {
+		return q, false
+	}
+	for i := 0; i < len(parts[1]); i += 2 {
+		q.dots[parts[1][i:i+2]] = true
+	}
+	entryDots := set{}
+	for i := 0; i < len(parts[2]); i += 7 {
+		e := parts[2][i : i+7]
+		if !q.dots[e[2:4]] || entryDots[e[2:4]] || e[4:] == "-00" {
+			return q, false
+		}
+		q.entries[e] = true
+		entryDots[e[2:4]] = true
+	}
+	return q, q.text() == text
+}
+
+// paper is a replica as the document words it.
+type paper struct {
+	me, n  int
+	held   plain
+	had    int
+	frames []string
+	deltas []plain
+	acked  [api.MaxReplicas]int // how many deltas each replica has told that it took
+}
+
+func newPaper(me, n int) *paper { return &paper{me: me, n: n, held: newPlain()} }
+
 func framed(body string) string { return fmt.Sprintf("%03d%s", len(body), body) }
 
-func (p *paper) join(dots, entries set) {
-	kept := set{}
-	for e := range p.entries {
-		if entries[e] || !dots[e[2:4]] {
-			kept[e] = true
-		}
-	}
-	for e := range entries {
-		if p.entries[e] || !p.dots[e[2:4]] {
-			kept[e] = true
-		}
-	}
-	p.entries = kept
-	for d := range dots {
-		p.dots[d] = true
-	}
-}
-
-func (p *paper) learn(dots, entries set) {
-	p.join(dots, entries)
+func (p *paper) learn(delta plain) {
+	p.held = joinPlain(p.held, delta)
 	p.had++
-	p.frames = append(p.frames, framed("D"+rising(dots)+";"+rising(entries)))
+	p.frames = append(p.frames, framed("D"+delta.text()))
+	p.deltas = append(p.deltas, delta)
 }
 
-func (p *paper) knowsAll(dots set) bool {
-	for d := range dots {
-		if !p.dots[d] {
+func (p *paper) knowsAll(q plain) bool {
+	for d := range q.dots {
+		if !p.held.dots[d] {
 			return false
 		}
 	}
 	return true
 }
 
+// fault tells by its error why a piece may not be joined; 0 if it may.
+func (p *paper) fault(q plain) api.Errno {
+	for d := range q.dots {
+		if int(d[0]-'0') >= p.n {
+			return api.ErrWho
+		}
+	}
+	if joinPlain(p.held, q).hasHole() {
+		return api.ErrGap
+	}
+	for e := range q.entries {
+		for there := range p.held.entries {
+			if there[2:4] == e[2:4] && there != e {
+				return api.ErrClash
+			}
+		}
+	}
+	return api.OK
+}
+
 func (p *paper) log() string { return strings.Join(p.frames, "") }
 
 func (p *paper) compact() {
-	p.frames = []string{framed(fmt.Sprintf("S%02d%s;%s", p.had, rising(p.dots), rising(p.entries)))}
+	p.frames = []string{framed(fmt.Sprintf("S%02d%s", p.had, p.held.text()))}
 }
 
 func (p *paper) digits() string {
 	text := ""
 	for r := 0; r < p.n; r++ {
 		count := 0
-		for d := range p.dots {
+		for d := range p.held.dots {
 			if d[:1] == fmt.Sprint(r) {
 				count++
 			}
@@ -91,7 +155,7 @@ func (p *paper) digits() string {
 	return text
 }
 
-func (p *paper) state() string { return p.digits() + ";" + rising(p.entries) }
+func (p *paper) state() string { return p.digits() + ";" + rising(p.held.entries) }
 
 // event makes the event whose entry begins with lay ("" for none), and takes
 // away the entries that begin with take ("" for none).
@@ -106,17 +170,17 @@ func (p *paper) event(token, take, lay string, value int) string {
 		return " 4"
 	}
 	dot := fmt.Sprintf("%d%c", p.me, own+1)
-	dots := set{dot: true}
-	for e := range p.entries {
+	delta := newPlain()
+	delta.dots[dot] = true
+	for e := range p.held.entries {
 		if take != "" && strings.HasPrefix(e, take) {
-			dots[e[2:4]] = true
+			delta.dots[e[2:4]] = true
 		}
 	}
-	entries := set{}
 	if lay != "" {
-		entries[fmt.Sprintf("%s%s%+03d", lay, dot, value)] = true
+		delta.entries[fmt.Sprintf("%s%s%+03d", lay, dot, value)] = true
 	}
-	p.learn(dots, entries)
+	p.learn(delta)
 	return p.digits() + " 0"
 }
 
@@ -124,7 +188,7 @@ func (p *paper) read(cart string) string {
 	var list []string
 	for _, item := range []string{"A", "B", "C", "D"} {
 		sum, found := 0, false
-		for e := range p.entries {
+		for e := range p.held.entries {
 			if strings.HasPrefix(e, cart+item) {
 				value, _ := strconv.Atoi(e[4:])
 				sum, found = sum+value, true
@@ -139,7 +203,8 @@ func (p *paper) read(cart string) string {
 
 var (
 	threeDigits = regexp.MustCompile(`^[0-9]{3}`)
-	frameBody   = regexp.MustCompile(`^(?:D|S([0-9]{2}))((?:[0-2][1-9])*);((?:[abc][A-D][0-2][1-9][+-][0-9]{2})*)$`)
+	frameForm   = regexp.MustCompile(`(?s)^(?:D|S([0-9]{2}))(.*)$`)
+	messageForm = regexp.MustCompile(`(?s)^[IF]([0-2])([0-2])([0-9]{2})(.*)$`)
 )
 
 // openPaper reads a log by P9's words; nil for what is none.
@@ -156,7 +221,7 @@ func openPaper(me, n int, log string) *paper {
 		if length > len(log[3:]) {
 			return p
 		}
-		if !p.takeFrame(log[:3+length]) {
+		if !p.takeFrame(log[3 : 3+length]) {
 			return nil
 		}
 		log = log[3+length:]
@@ -164,60 +229,73 @@ func openPaper(me, n int, log string) *paper {
 	return nil
 }
 
-func (p *paper) takeFrame(frame string) bool {
-	parts := frameBody.FindStringSubmatch(frame[3:])
+func (p *paper) takeFrame(body string) bool {
+	parts := frameForm.FindStringSubmatch(body)
 	if parts == nil {
 		return false
 	}
-	dots, entries := set{}, set{}
-	for i := 0; i < len(parts[2]); i += 2 {
-		dots[parts[2][i:i+2]] = true
-	}
-	entryDots := set{}
-	for i := 0; i < len(parts[3]); i += 7 {
-		e := parts[3][i : i+7]
-		entries[e] = true
-		if !dots[e[2:4]] || entryDots[e[2:4]] || e[4:] == "-00" {
-			return false
-		}
-		entryDots[e[2:4]] = true
-		for there := range p.entries {
-			if there[2:4] == e[2:4] && there != e {
-				return false
-			}
-		}
-	}
-	if rising(dots) != parts[2] || rising(entries) != parts[3] {
+	q, good := readPlain(parts[2])
+	if !good || p.fault(q) != api.OK {
 		return false
 	}
-	for d := range dots {
-		if int(d[0]-'0') >= p.n {
+	if body[0] == 'D' {
+		if p.knowsAll(q) {
 			return false
 		}
+		p.learn(q)
+		return true
 	}
-	if frame[3] == 'S' {
-		p.had, _ = strconv.Atoi(parts[1])
-		if len(p.frames) > 0 || p.had > len(dots) {
-			return false
-		}
-	} else {
-		if p.knowsAll(dots) {
-			return false
-		}
-		p.had++
+	p.had, _ = strconv.Atoi(parts[1])
+	if len(p.frames) > 0 || p.had > len(q.dots) {
+		return false
 	}
-	p.join(dots, entries)
-	for d := range p.dots {
-		if d[1] > '1' && !p.dots[fmt.Sprintf("%c%c", d[0], d[1]-1)] {
-			return false
-		}
-	}
-	p.frames = append(p.frames, frame)
+	p.held = q
+	p.compact()
 	return true
 }
 
+// take takes a message by P10's words.
+func (p *paper) take(message string) string {
+	parts := messageForm.FindStringSubmatch(message)
+	if parts == nil || len(message) > api.MaxText {
+		return " 5"
+	}
+	from, to, count := parts[1], parts[2], parts[3]
+	q, good := readPlain(parts[4])
+	if !good {
+		return " 5"
+	}
+	me := fmt.Sprint(p.me)
+	if to != me || from == me || from >= fmt.Sprint(p.n) {
+		return " 6"
+	}
+	if e := p.fault(q); e != api.OK {
+		return fmt.Sprintf(" %d", e)
+	}
+	if !p.knowsAll(q) {
+		p.learn(q)
+	}
+	return "A" + me + from + count + " 0"
+}
+
+// send writes a message: all deltas behind one that the other told that it
+// took, or all that is held. (Deltas behind one that it does not know of may
+// take away what it does not know of either.)
+func (p *paper) send(g *rand.Rand, to int) string {
+	told := p.held
+	letter := "F"
+	if g.Intn(2) == 0 {
+		letter = "I"
+		told = newPlain()
+		for _, delta := range p.deltas[g.Intn(p.acked[to]+1):] {
+			told = joinPlain(told, delta)
+		}
+	}
+	return fmt.Sprintf("%s%d%d%02d%s", letter, p.me, to, p.had, told.text())
+}
+
 // step makes one call on the replica and on the paper alike.
-func step(t *testing.T, g *rand.Rand, x *Replica, p *paper) {
+func step(t *testing.T, g *rand.Rand, x *carts.Replica, p *paper) {
 	t.Helper()
 	cart, item, value := g.Intn(2), g.Intn(2), g.Intn(199)-99
 	at := "abc"[cart:cart+1] + "ABCD"[item:item+1]
@@ -227,14 +305,14 @@ func step(t *testing.T, g *rand.Rand, x *Replica, p *paper) {
 	}
 	switch g.Intn(9) {
 	case 0, 1, 2, 3:
-		is(t, "Add", told(x.Add(token, cart, item, value)), p.event(token, "", at, value))
+		want(t, "Add", answer(x.Add(token, cart, item, value)), p.event(token, "", at, value))
 	case 4, 5:
 		value = g.Intn(100)
-		is(t, "Set", told(x.Set(token, cart, item, value)), p.event(token, at, at, value))
+		want(t, "Set", answer(x.Set(token, cart, item, value)), p.event(token, at, at, value))
 	case 6:
-		is(t, "Remove", told(x.Remove(token, cart, item)), p.event(token, at, "", 0))
+		want(t, "Remove", answer(x.Remove(token, cart, item)), p.event(token, at, "", 0))
 	case 7:
-		is(t, "Clear", told(x.Clear(token, cart)), p.event(token, at[:1], "", 0))
+		want(t, "Clear", answer(x.Clear(token, cart)), p.event(token, at[:1], "", 0))
 	case 8:
 		x.Compact()
 		p.compact()
@@ -243,54 +321,63 @@ func step(t *testing.T, g *rand.Rand, x *Replica, p *paper) {
 }
 
 // alike compares all that can be asked of a replica and its paper.
-func alike(t *testing.T, x *Replica, p *paper) {
+func alike(t *testing.T, x *carts.Replica, p *paper) {
 	t.Helper()
-	is(t, "State", x.State(), p.state())
-	is(t, "Log", x.Log(), p.log())
+	wantState(t, x, p.state())
+	want(t, "Log", x.Log(), p.log())
 	for cart, letter := range []string{"a", "b", "c"} {
-		sums, digits, e := x.Read(p.digits(), cart)
-		is(t, "Read", sums+" "+told(digits, e), p.read(letter)+" "+p.digits()+" 0")
+		want(t, "Read", answer3(x.Read(p.digits(), cart)), p.read(letter)+" "+p.digits()+" 0")
 	}
 }
 
-// play lets a cluster and its papers make events, learn what others hold, and
-// open their logs again.
-func play(t *testing.T, g *rand.Rand, n, calls int) ([]*Replica, []*paper) {
+// play lets a cluster and its papers make events, send messages, which get
+// lost, come late, twice or to the wrong one, and open their logs again.
+func play(t *testing.T, g *rand.Rand, n, calls int) ([]*carts.Replica, []*paper) {
 	t.Helper()
-	xs := cluster(n)
+	xs := cluster(t, n)
 	var ps []*paper
 	for i := range xs {
 		ps = append(ps, newPaper(i, n))
 	}
+	var post []string
 	for i := 0; i < calls; i++ {
-		to, from := g.Intn(n), g.Intn(n)
-		if g.Intn(4) == 0 && !ps[to].knowsAll(ps[from].dots) {
-			xs[to].learn(xs[from].held)
-			ps[to].learn(ps[from].dots, ps[from].entries)
+		at := g.Intn(n)
+		post = append(post, ps[at].send(g, g.Intn(n)))
+		message := post[len(post)-1-g.Intn(1+len(post)/3)]
+		to := int(message[2] - '0')
+		if g.Intn(20) == 0 {
+			to = g.Intn(n)
+		}
+		taken := answer(xs[to].Take(message))
+		want(t, "Take of "+message, taken, ps[to].take(message))
+		alike(t, xs[to], ps[to])
+		if taken[0] == 'A' {
+			count, _ := strconv.Atoi(message[3:5])
+			ps[message[1]-'0'].acked[to] = max(ps[message[1]-'0'].acked[to], count)
 		}
 		if g.Intn(8) == 0 {
-			var e api.Errno
-			xs[to], e = Open(to, n, xs[to].Log())
-			is(t, "Open", told("", e), " 0")
+			xs[at] = open(t, at, n, xs[at].Log())
 		}
-		step(t, g, xs[to], ps[to])
+		step(t, g, xs[at], ps[at])
 	}
 	return xs, ps
 }
 
-// P4 to P9: replicas that make events, learn what the others hold, and are
-// opened again do what the document's words do on paper; in the end all hold
-// the same.
+// P4 to P10: replicas that make events, take messages, and are opened again do
+// what the document's words do on paper; in the end all hold the same.
 func TestAsOnPaper(t *testing.T) {
 	g := rand.New(rand.NewSource(2))
 	for round := 0; round < 400; round++ {
 		n := 1 + g.Intn(3)
-		xs, _ := play(t, g, n, 60)
-		for i := 0; i < 2*n; i++ {
-			xs[(i+1)%n].learn(xs[i%n].held)
+		xs, ps := play(t, g, n, 60)
+		for i := 0; i < 2*n && n > 1; i++ {
+			from, to := i%n, (i+1)%n
+			message := fmt.Sprintf("F%d%d%02d%s", from, to, ps[from].had, ps[from].held.text())
+			want(t, "Take of "+message, answer(xs[to].Take(message)), ps[to].take(message))
 		}
-		for _, x := range xs {
-			is(t, "State in the end", x.State(), xs[0].State())
+		for i, x := range xs {
+			alike(t, x, ps[i])
+			want(t, "State in the end", x.State(), xs[0].State())
 		}
 	}
 }
@@ -303,8 +390,6 @@ func TestEveryCut(t *testing.T) {
 		xs, ps := play(t, g, n, 20)
 		log := xs[0].Log()
 		for end := 0; end <= len(log); end++ {
-			y, e := Open(0, n, log[:end])
-			is(t, "Open of a beginning", told("", e), " 0")
 			whole := ""
 			for _, frame := range ps[0].frames {
 				if len(whole)+len(frame) > end {
@@ -312,7 +397,7 @@ func TestEveryCut(t *testing.T) {
 				}
 				whole += frame
 			}
-			is(t, "Log of a beginning", y.Log(), whole)
+			want(t, "Log of a beginning", open(t, 0, n, log[:end]).Log(), whole)
 		}
 	}
 }
@@ -343,10 +428,14 @@ func wrong(g *rand.Rand, frames []string) string {
 	}
 	log := strings.Join(list, "")
 	if log != "" && g.Intn(2) == 0 {
-		at := g.Intn(len(log))
-		log = log[:at] + letters[g.Intn(len(letters)):][:1] + log[at+1:]
+		log = swapByte(g, log, letters)
 	}
 	return log
+}
+
+func swapByte(g *rand.Rand, text, letters string) string {
+	at := g.Intn(len(text))
+	return text[:at] + letters[g.Intn(len(letters)):][:1] + text[at+1:]
 }
 
 // P9: logs that were changed are taken or refused as on paper, and what was
@@ -361,7 +450,7 @@ func TestOpenOfChangedLogs(t *testing.T) {
 			log := wrong(g, ps[0].frames)
 			n := 1 + g.Intn(3)
 			p := openPaper(0, n, log)
-			x, e := Open(0, n, log)
+			x, e := carts.Open(0, n, log)
 			if (p == nil) != (e == api.ErrLog) || (x == nil) != (e != api.OK) {
 				t.Fatalf("Open(0, %d, %q): %d", n, log, e)
 			}
@@ -379,5 +468,52 @@ func TestOpenOfChangedLogs(t *testing.T) {
 	}
 	if taken < 3000 || refused < 3000 {
 		t.Errorf("%d taken, %d refused: too few of one kind", taken, refused)
+	}
+}
+
+// forged makes a message of few dots and entries, so that holes, clashes and
+// nothing new are all often there; at times it is changed in a byte.
+func forged(g *rand.Rand) string {
+	q := newPlain()
+	for i := g.Intn(5); i > 0; i-- {
+		dot := fmt.Sprintf("%d%d", g.Intn(3)*g.Intn(2), 1+g.Intn(3))
+		if !q.dots[dot] && g.Intn(2) == 0 {
+			q.entries[fmt.Sprintf("a%c%s+0%d", 'A'+g.Intn(8)/7, dot, g.Intn(8)/7)] = true
+		}
+		q.dots[dot] = true
+	}
+	message := fmt.Sprintf("%c%d%d%02d%s", "IF"[g.Intn(2)], g.Intn(3), g.Intn(8)/7, g.Intn(100), q.text())
+	if g.Intn(8) == 0 {
+		message = swapByte(g, message, "001122349;abcABD+-IFx")
+	}
+	return message
+}
+
+// P10: messages that no replica wrote are taken or refused as on paper.
+func TestTakeOfForgedMessages(t *testing.T) {
+	g := rand.New(rand.NewSource(8))
+	answers := map[string]int{}
+	for round := 0; round < 4000; round++ {
+		n := 1 + g.Intn(3)
+		x, p := begin(t, 0, n), newPaper(0, n)
+		for i := 0; i < 12; i++ {
+			message := forged(g)
+			had := p.had
+			wanted := p.take(message)
+			want(t, "Take of "+message, answer(x.Take(message)), wanted)
+			alike(t, x, p)
+			answers[fmt.Sprint(wanted[len(wanted)-1:], " ", p.had-had)]++
+			if g.Intn(6) == 0 {
+				step(t, g, x, p)
+			}
+		}
+		x.Compact()
+		p.compact()
+		alike(t, x, p)
+	}
+	for _, kind := range []string{"0 0", "0 1", "5 0", "6 0", "7 0", "8 0"} {
+		if answers[kind] < 300 {
+			t.Errorf("%d answers of the kind %q (error, deltas) are too few: %v", answers[kind], kind, answers)
+		}
 	}
 }
