@@ -8,11 +8,14 @@ import (
 
 // Replica is one of a cluster.
 type Replica struct {
-	me   int         // its number in the cluster
-	n    int         // how many replicas the cluster has
-	held piece.Piece // the events that it knows and what is in the carts; without holes
-	had  int         // how many deltas it has had; each brought a dot, so no more than held has
-	log  string      // its frames, one behind the other
+	me     int                        // its number in the cluster
+	n      int                        // how many replicas the cluster has
+	held   piece.Piece                // the events that it knows and what is in the carts; without holes
+	had    int                        // how many deltas it has had; each brought a dot, so no more than held has
+	log    string                     // its frames, one behind the other
+	recent [api.MaxDeltas]piece.Piece // the deltas that it remembers, the last one first
+	kept   int                        // how many it remembers
+	acked  [api.MaxReplicas]int       // up to which number each other replica has acknowledged; no more than had
 }
 
 // New makes a replica without events (P3).
@@ -127,7 +130,37 @@ func (x *Replica) Take(message string) (string, api.Errno) {
 }
 
 // Ship writes a message to another replica (P11).
-func (x *Replica) Ship(to int) (string, api.Errno) { return "", api.OK }
+func (x *Replica) Ship(to int) (string, api.Errno) {
+	if !x.isOther(to) {
+		return "", api.ErrArg
+	}
+	untold := x.had - x.acked[to]
+	if untold == 0 {
+		return "", api.OK
+	}
+	h := head{kind: "F", from: x.me, to: to, count: x.had}
+	told := x.held
+	if untold <= x.kept {
+		h.kind = "I"
+		told = x.lastDeltas(untold)
+	}
+	return messageText(h, told), api.OK
+}
 
 // Acked takes what another replica answered (P12).
-func (x *Replica) Acked(answer string) api.Errno { return api.OK }
+func (x *Replica) Acked(answer string) api.Errno {
+	h, good := readHead(answer)
+	if !good || h.kind != "A" {
+		return api.ErrText
+	}
+	if !x.isForMe(h) {
+		return api.ErrWho
+	}
+	if h.count > x.had {
+		return api.ErrSeq
+	}
+	if h.count > x.acked[h.from] {
+		x.acked[h.from] = h.count
+	}
+	return api.OK
+}

@@ -7,12 +7,43 @@ import (
 	"carts/piece"
 )
 
-// learn joins a delta to what the replica holds, and writes it on the log.
-// All that a replica learns goes through here.
+// learn takes a delta in and remembers it. All that a replica learns from
+// clients and from others goes through here.
 func (x *Replica) learn(delta piece.Piece) {
+	x.takeIn(delta)
+	x.remember(delta)
+}
+
+// takeIn joins a delta to what the replica holds, and writes it on the log. It
+// is apart from learn, since what Open reads is not remembered.
+func (x *Replica) takeIn(delta piece.Piece) {
 	x.held = piece.Join(x.held, delta)
 	x.had++
 	x.log += deltaFrame(delta)
+}
+
+// remember keeps a delta for messages; the oldest is forgotten where there is
+// no room for one more.
+func (x *Replica) remember(delta piece.Piece) {
+	for i := api.MaxDeltas - 1; i > 0; i-- {
+		x.recent[i] = x.recent[i-1]
+	}
+	x.recent[0] = delta
+	if x.kept < api.MaxDeltas {
+		x.kept++
+	}
+}
+
+// lastDeltas joins so many of the last deltas, in their order. Whoever asks
+// sees to it that they are remembered.
+func (x *Replica) lastDeltas(count int) piece.Piece {
+	var joined piece.Piece
+	for i := api.MaxDeltas - 1; i >= 0; i-- {
+		if i < count {
+			joined = piece.Join(joined, x.recent[i])
+		}
+	}
+	return joined
 }
 
 // hasNews tells whether the piece has a dot that is not known here.

@@ -78,7 +78,7 @@ func (x *Replica) readDelta(text string) bool {
 	if !x.hasNews(delta) {
 		return false
 	}
-	x.learn(delta)
+	x.takeIn(delta)
 	return true
 }
 

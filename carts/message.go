@@ -75,8 +75,19 @@ func readMessage(text string) (head, piece.Piece, bool) {
 	return h, p, true
 }
 
+func messageText(h head, told piece.Piece) string {
+	ahead := h.text()
+	text := told.Text()
+	return ahead + text
+}
+
 // isForMe tells whether the head goes to this replica and comes from another
 // one of the cluster.
 func (x *Replica) isForMe(h head) bool {
-	return h.to == x.me && h.from != x.me && h.from < x.n
+	return h.to == x.me && x.isOther(h.from)
+}
+
+// isOther tells whether the cluster has such a replica, and it is not this one.
+func (x *Replica) isOther(replica int) bool {
+	return replica >= 0 && replica < x.n && replica != x.me
 }

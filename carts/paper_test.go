@@ -91,11 +91,13 @@ type paper struct {
 	held   plain
 	had    int
 	frames []string
-	deltas []plain
-	acked  [api.MaxReplicas]int // how many deltas each replica has told that it took
+	deltas map[int]plain        // those since New or Open, by their numbers
+	acked  [api.MaxReplicas]int // up to which number each replica has acknowledged
 }
 
-func newPaper(me, n int) *paper { return &paper{me: me, n: n, held: newPlain()} }
+func newPaper(me, n int) *paper {
+	return &paper{me: me, n: n, held: newPlain(), deltas: map[int]plain{}}
+}
 
 func framed(body string) string { return fmt.Sprintf("%03d%s", len(body), body) }
 
@@ -103,7 +105,7 @@ func (p *paper) learn(delta plain) {
 	p.held = joinPlain(p.held, delta)
 	p.had++
 	p.frames = append(p.frames, framed("D"+delta.text()))
-	p.deltas = append(p.deltas, delta)
+	p.deltas[p.had] = delta
 }
 
 func (p *paper) knowsAll(q plain) bool {
@@ -205,28 +207,37 @@ var (
 	threeDigits = regexp.MustCompile(`^[0-9]{3}`)
 	frameForm   = regexp.MustCompile(`(?s)^(?:D|S([0-9]{2}))(.*)$`)
 	messageForm = regexp.MustCompile(`(?s)^[IF]([0-2])([0-2])([0-9]{2})(.*)$`)
+	answerForm  = regexp.MustCompile(`^A([0-2])([0-2])([0-9]{2})$`)
 )
 
 // openPaper reads a log by P9's words; nil for what is none.
 func openPaper(me, n int, log string) *paper {
 	p := newPaper(me, n)
+	if !p.takeLog(log) {
+		return nil
+	}
+	p.deltas = map[int]plain{}
+	return p
+}
+
+func (p *paper) takeLog(log string) bool {
 	for len(log) <= api.MaxLog {
 		if len(log) < 3 {
-			return p
+			return true
 		}
 		if !threeDigits.MatchString(log) {
-			return nil
+			return false
 		}
 		length, _ := strconv.Atoi(log[:3])
 		if length > len(log[3:]) {
-			return p
+			return true
 		}
 		if !p.takeFrame(log[3 : 3+length]) {
-			return nil
+			return false
 		}
 		log = log[3+length:]
 	}
-	return nil
+	return false
 }
 
 func (p *paper) takeFrame(body string) bool {
@@ -278,20 +289,45 @@ func (p *paper) take(message string) string {
 	return "A" + me + from + count + " 0"
 }
 
-// send writes a message: all deltas behind one that the other told that it
-// took, or all that is held. (Deltas behind one that it does not know of may
-// take away what it does not know of either.)
-func (p *paper) send(g *rand.Rand, to int) string {
-	told := p.held
-	letter := "F"
-	if g.Intn(2) == 0 {
-		letter = "I"
-		told = newPlain()
-		for _, delta := range p.deltas[g.Intn(p.acked[to]+1):] {
-			told = joinPlain(told, delta)
-		}
+// ship writes a message by P11's words.
+func (p *paper) ship(to int) string {
+	if to < 0 || to >= p.n || to == p.me {
+		return " 1"
 	}
-	return fmt.Sprintf("%s%d%d%02d%s", letter, p.me, to, p.had, told.text())
+	if p.acked[to] == p.had {
+		return " 0"
+	}
+	letter, told := "I", newPlain()
+	for number := p.acked[to] + 1; number <= p.had; number++ {
+		delta, found := p.deltas[number]
+		if !found || number <= p.had-api.MaxDeltas {
+			letter = "F"
+		}
+		told = joinPlain(told, delta)
+	}
+	if letter == "F" {
+		told = p.held
+	}
+	return fmt.Sprintf("%s%d%d%02d%s 0", letter, p.me, to, p.had, told.text())
+}
+
+// ack takes an answer by P12's words.
+func (p *paper) ack(text string) string {
+	parts := answerForm.FindStringSubmatch(text)
+	if parts == nil {
+		return " 5"
+	}
+	me := fmt.Sprint(p.me)
+	if parts[2] != me || parts[1] == me || parts[1] >= fmt.Sprint(p.n) {
+		return " 6"
+	}
+	number, _ := strconv.Atoi(parts[3])
+	if number > p.had {
+		return " 9"
+	}
+	from := parts[1][0] - '0'
+	p.acked[from] = max(p.acked[from], number)
+	return " 0"
 }
 
 // step makes one call on the replica and on the paper alike.
@@ -328,10 +364,19 @@ func alike(t *testing.T, x *carts.Replica, p *paper) {
 	for cart, letter := range []string{"a", "b", "c"} {
 		want(t, "Read", answer3(x.Read(p.digits(), cart)), p.read(letter)+" "+p.digits()+" 0")
 	}
+	for to := -1; to <= api.MaxReplicas; to++ {
+		want(t, fmt.Sprintf("Ship(%d)", to), answer(x.Ship(to)), p.ship(to))
+	}
 }
 
-// play lets a cluster and its papers make events, send messages, which get
-// lost, come late, twice or to the wrong one, and open their logs again.
+// oneOf picks a text, the late ones more often.
+func oneOf(g *rand.Rand, texts []string) string {
+	return texts[len(texts)-1-g.Intn(1+len(texts)/3)]
+}
+
+// play lets a cluster and its papers make events, ship messages, which get
+// lost, come late, twice or to the wrong one, as their answers do, and open
+// their logs again.
 func play(t *testing.T, g *rand.Rand, n, calls int) ([]*carts.Replica, []*paper) {
 	t.Helper()
 	xs := cluster(t, n)
@@ -339,45 +384,95 @@ func play(t *testing.T, g *rand.Rand, n, calls int) ([]*carts.Replica, []*paper)
 	for i := range xs {
 		ps = append(ps, newPaper(i, n))
 	}
-	var post []string
+	var messages, answers []string
 	for i := 0; i < calls; i++ {
 		at := g.Intn(n)
-		post = append(post, ps[at].send(g, g.Intn(n)))
-		message := post[len(post)-1-g.Intn(1+len(post)/3)]
-		to := int(message[2] - '0')
-		if g.Intn(20) == 0 {
-			to = g.Intn(n)
+		step(t, g, xs[at], ps[at])
+		if message, e := xs[at].Ship(g.Intn(n)); e == api.OK && message != "" {
+			messages = append(messages, message)
 		}
-		taken := answer(xs[to].Take(message))
-		want(t, "Take of "+message, taken, ps[to].take(message))
-		alike(t, xs[to], ps[to])
-		if taken[0] == 'A' {
-			count, _ := strconv.Atoi(message[3:5])
-			ps[message[1]-'0'].acked[to] = max(ps[message[1]-'0'].acked[to], count)
+		if len(messages) > 0 {
+			answers = append(answers, carry(t, g, xs, ps, oneOf(g, messages)))
+		}
+		if len(answers) > 0 && g.Intn(3) > 0 {
+			carryBack(t, g, xs, ps, oneOf(g, answers))
 		}
 		if g.Intn(8) == 0 {
+			ps[at] = openPaper(at, n, xs[at].Log())
 			xs[at] = open(t, at, n, xs[at].Log())
+			alike(t, xs[at], ps[at])
 		}
-		step(t, g, xs[at], ps[at])
 	}
 	return xs, ps
 }
 
-// P4 to P10: replicas that make events, take messages, and are opened again do
-// what the document's words do on paper; in the end all hold the same.
+// carry brings a message to where it goes, and at times to another replica
+// too, and tells its answer.
+func carry(t *testing.T, g *rand.Rand, xs []*carts.Replica, ps []*paper, message string) string {
+	t.Helper()
+	goals := []int{int(message[2] - '0')}
+	if g.Intn(20) == 0 {
+		goals = append(goals, g.Intn(len(xs)))
+	}
+	var told string
+	for i, to := range goals {
+		text, e := xs[to].Take(message)
+		want(t, "Take of "+message, answer(text, e), ps[to].take(message))
+		alike(t, xs[to], ps[to])
+		if i == 0 {
+			want(t, "Take of "+message, answer("", e), " 0")
+			told = text
+		}
+	}
+	return told
+}
+
+// carryBack brings an answer to where it goes, and at times to another replica.
+func carryBack(t *testing.T, g *rand.Rand, xs []*carts.Replica, ps []*paper, told string) {
+	t.Helper()
+	to := int(told[2] - '0')
+	if g.Intn(20) == 0 {
+		to = g.Intn(len(xs))
+	}
+	want(t, "Acked of "+told, answer("", xs[to].Acked(told)), ps[to].ack(told))
+	alike(t, xs[to], ps[to])
+}
+
+// P4 to P12: replicas that make events, ship and take messages, and are opened
+// again do what the document's words do on paper; when each has told each
+// other, all hold the same, and when that was answered, none has more to tell.
 func TestAsOnPaper(t *testing.T) {
 	g := rand.New(rand.NewSource(2))
 	for round := 0; round < 400; round++ {
 		n := 1 + g.Intn(3)
 		xs, ps := play(t, g, n, 60)
-		for i := 0; i < 2*n && n > 1; i++ {
-			from, to := i%n, (i+1)%n
-			message := fmt.Sprintf("F%d%d%02d%s", from, to, ps[from].had, ps[from].held.text())
-			want(t, "Take of "+message, answer(xs[to].Take(message)), ps[to].take(message))
-		}
-		for i, x := range xs {
-			alike(t, x, ps[i])
+		tellAll(t, g, xs, ps)
+		for _, x := range xs {
 			want(t, "State in the end", x.State(), xs[0].State())
+		}
+		tellAll(t, g, xs, ps)
+		for i, x := range xs {
+			for to := 0; to < n; to++ {
+				if to != i {
+					want(t, "Ship in the end", answer(x.Ship(to)), " 0")
+				}
+			}
+		}
+	}
+}
+
+// tellAll lets each replica tell each other what is not acknowledged.
+func tellAll(t *testing.T, g *rand.Rand, xs []*carts.Replica, ps []*paper) {
+	t.Helper()
+	for _, x := range xs {
+		for to := range xs {
+			message, e := x.Ship(to)
+			if e != api.OK || message == "" {
+				continue
+			}
+			told := carry(t, g, xs, ps, message)
+			from := int(told[2] - '0')
+			want(t, "Acked of "+told, answer("", xs[from].Acked(told)), ps[from].ack(told))
 		}
 	}
 }
@@ -514,6 +609,59 @@ func TestTakeOfForgedMessages(t *testing.T) {
 	for _, kind := range []string{"0 0", "0 1", "5 0", "6 0", "7 0", "8 0"} {
 		if answers[kind] < 300 {
 			t.Errorf("%d answers of the kind %q (error, deltas) are too few: %v", answers[kind], kind, answers)
+		}
+	}
+}
+
+// forgedAnswer makes an answer of which each part is often right and often
+// wrong; at times it is changed in a byte.
+func forgedAnswer(g *rand.Rand, p *paper) string {
+	text := fmt.Sprintf("A%d%d%02d", g.Intn(3), g.Intn(8)/7, max(0, p.had-5+g.Intn(8)))
+	if g.Intn(6) == 0 {
+		text = swapByte(g, text, "0123459ABFIx;")
+	}
+	return text
+}
+
+// P11, P12: answers that no replica wrote are taken or refused as on paper,
+// and what is shipped behind them is as on paper, behind clients' calls, forged
+// messages and Open too.
+func TestAckedOfForgedAnswers(t *testing.T) {
+	g := rand.New(rand.NewSource(9))
+	answers, letters := map[string]int{}, map[string]int{}
+	for round := 0; round < 1500; round++ {
+		n := 2 + g.Intn(2)
+		x, p := begin(t, 0, n), newPaper(0, n)
+		for i := 0; i < 30; i++ {
+			switch g.Intn(12) {
+			case 0, 1, 2, 3:
+				step(t, g, x, p)
+			case 4, 5:
+				message := forged(g)
+				want(t, "Take of "+message, answer(x.Take(message)), p.take(message))
+			case 6:
+				if g.Intn(4) == 0 {
+					p = openPaper(0, n, x.Log())
+					x = open(t, 0, n, x.Log())
+				}
+			default:
+				text := forgedAnswer(g, p)
+				wanted := p.ack(text)
+				want(t, "Acked of "+text, answer("", x.Acked(text)), wanted)
+				answers[wanted]++
+			}
+			alike(t, x, p)
+			letters[p.ship(1)[:1]]++
+		}
+	}
+	for _, kind := range []string{" 0", " 5", " 6", " 9"} {
+		if answers[kind] < 500 {
+			t.Errorf("%d answers of the kind %q are too few: %v", answers[kind], kind, answers)
+		}
+	}
+	for _, letter := range []string{" ", "I", "F"} {
+		if letters[letter] < 1000 {
+			t.Errorf("%d messages of the kind %q are too few: %v", letters[letter], letter, letters)
 		}
 	}
 }
